@@ -542,6 +542,18 @@ func checkNoNetlist(t *testing.T, name string, c impl.Circuit, nets []int) {
 	}
 }
 
+// pastLimits returns circuits that are one step past each limit, and would have cells if that were allowed.
+func pastLimits() []impl.Circuit {
+	many := mostCells()
+	return []impl.Circuit{
+		{Inputs: impl.MaxInputs + 1, Next: []int{2}},
+		{Inputs: 1, Next: slices.Repeat([]int{2}, impl.MaxLatches+1)},
+		{Inputs: many.Inputs, Next: many.Next, Gates: append(many.Gates, impl.Gate{A: 2, B: 4}), Outs: many.Outs},
+		{Inputs: many.Inputs, Next: many.Next, Gates: many.Gates, Outs: append(many.Outs, 2)},
+		{Inputs: many.Inputs, Next: []int{40, 42, 44}, Gates: many.Gates, Outs: many.Outs},
+	}
+}
+
 func TestInvalidCircuitsHaveNoNetlist(t *testing.T) {
 	nets := farNets()
 	for net := range 30 {
@@ -550,15 +562,7 @@ func TestInvalidCircuitsHaveNoNetlist(t *testing.T) {
 	for _, k := range invalidCircuits() {
 		checkNoNetlist(t, k.name, k.c, nets)
 	}
-	// One step past each limit, with cells if it were allowed.
-	many := mostCells()
-	for _, c := range []impl.Circuit{
-		{Inputs: impl.MaxInputs + 1, Next: []int{2}},
-		{Inputs: 1, Next: slices.Repeat([]int{2}, impl.MaxLatches+1)},
-		{Inputs: many.Inputs, Next: many.Next, Gates: append(many.Gates, impl.Gate{A: 2, B: 4}), Outs: many.Outs},
-		{Inputs: many.Inputs, Next: many.Next, Gates: many.Gates, Outs: append(many.Outs, 2)},
-		{Inputs: many.Inputs, Next: []int{40, 42, 44}, Gates: many.Gates, Outs: many.Outs},
-	} {
+	for _, c := range pastLimits() {
 		checkNoNetlist(t, "past a limit", c, nets)
 	}
 }
