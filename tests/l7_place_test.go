@@ -60,31 +60,29 @@ func somePlacements(n int) [][]int {
 	return places
 }
 
-// modelTiles returns the tiles that a net connects, none if nothing uses it.
+// modelTiles returns the tiles that a net connects, the source first, and then those of cells and those of outputs; none if nothing uses it.
 func modelTiles(c impl.Circuit, cells []impl.Cell, place []int, net int) []int {
-	tiles := []int{}
+	sinks := []int{}
 	for i, cell := range cells {
 		if slices.Contains(cell.Inputs, net) {
-			tiles = append(tiles, place[i])
+			sinks = append(sinks, place[i])
 		}
 	}
 	for row, lit := range c.Outs {
 		if lit/2 == net {
-			tiles = append(tiles, row*impl.Side+impl.Side-1)
+			sinks = append(sinks, row*impl.Side+impl.Side-1)
 		}
 	}
-	if len(tiles) == 0 {
+	if len(sinks) == 0 {
 		return nil
 	}
-	if net <= c.Inputs {
-		return append(tiles, (net-1)*impl.Side)
-	}
+	source := (net - 1) * impl.Side
 	for i, cell := range cells {
 		if cell.Net == net {
-			tiles = append(tiles, place[i])
+			source = place[i]
 		}
 	}
-	return tiles
+	return append([]int{source}, sinks...)
 }
 
 // modelLength looks at every two tiles that a net connects.
@@ -161,6 +159,9 @@ func checkNoPlacement(t *testing.T, name string, c impl.Circuit, place []int) {
 	}
 	if got := impl.WireLength(c, place); got != -1 {
 		t.Fatalf("%s: wire length %d of placement %v: %v", name, got, place, c)
+	}
+	if routes, ok := impl.Route(c, place); ok || len(routes) != 0 {
+		t.Fatalf("%s: routes %v of placement %v: %v", name, routes, place, c)
 	}
 }
 
