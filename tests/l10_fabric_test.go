@@ -1184,7 +1184,7 @@ func fabricOf(c impl.Circuit) (impl.Config, bool) {
 	k, place := blank(), impl.Place(c)
 	routes, ok := impl.Route(c, place)
 	if !ok {
-		return k, false
+		return impl.Config{}, false
 	}
 	tracks, starts := map[int]int{0: impl.NoTrack}, map[int]int{}
 	for input := range c.Inputs {
@@ -1223,10 +1223,7 @@ func checkCircuitInTheFabric(t *testing.T, name string, c impl.Circuit) {
 		return
 	}
 	rows := rowsFor(c, 12)
-	want := [][]bool{}
-	for _, row := range impl.Simulate(c, rows) {
-		want = append(want, slices.Concat(row, set(3-len(row))))
-	}
+	want := padded(impl.Simulate(c, rows))
 	if got := impl.RunFabric(k, rows); !impl.ConfigAcyclic(k) || !sameRows(got, want) {
 		t.Fatalf("%s: %v, want %v", name, got, want)
 	}
@@ -1329,26 +1326,35 @@ func TestFabricStepsShareNoMemory(t *testing.T) {
 	}
 }
 
+// checkSeparateRows requires of a run of the fabric that its rows share no memory with each other, with the rows of inputs or with another run, the second one. It spoils the first run and the rows of inputs.
+func checkSeparateRows(t *testing.T, k fabricCase, rows [][]bool, first [][]bool, second [][]bool) {
+	t.Helper()
+	for i := range first {
+		spoil(first[i])
+		first[i] = slices.Clone(k.want[i])
+		if !sameRows(first, k.want) {
+			t.Fatalf("%s: row %d shares memory with another one", k.name, i)
+		}
+	}
+	spoilLists(first, []bool{true, true, true, true})
+	checkRowsUnwritten(t, k.name, rows, k.rows)
+	for _, row := range rows {
+		spoil(row)
+	}
+	if !sameRows(second, k.want) {
+		t.Errorf("%s: two runs share memory", k.name)
+	}
+}
+
 func TestFabricRunsShareNoMemory(t *testing.T) {
 	for _, k := range fabricCases() {
 		argument, rows := roomyConfig(k.k), roomyRows(k.rows)
 		first, second := impl.RunFabric(argument, rows), impl.RunFabric(argument, rows)
-		for i := range first {
-			spoil(first[i])
-			first[i] = slices.Clone(k.want[i])
-			if !sameRows(first, k.want) {
-				t.Fatalf("%s: row %d shares memory with another one", k.name, i)
-			}
-		}
-		spoilLists(first, []bool{true, true, true, true})
+		checkSeparateRows(t, k, rows, first, second)
 		checkConfigUnwritten(t, k.name, argument, k.k)
-		checkRowsUnwritten(t, k.name, rows, k.rows)
-		for _, row := range rows {
-			spoil(row)
-		}
 		spoilConfig(t, k.name, argument, k.k)
 		if !sameRows(second, k.want) || !sameRows(impl.RunFabric(k.k, k.rows), k.want) {
-			t.Errorf("%s: two runs share memory", k.name)
+			t.Errorf("%s: a run shares memory with its configuration", k.name)
 		}
 	}
 }
