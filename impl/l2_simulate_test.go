@@ -2,6 +2,7 @@ package impl
 
 import (
 	"math/bits"
+	"slices"
 	"testing"
 )
 
@@ -36,11 +37,37 @@ func TestBitSetSizes(t *testing.T) {
 
 func TestBitSetOfValues(t *testing.T) {
 	set := newBitSet(5)
-	set.addTrue(1, []bool{true, false, true})
+	set.add(1)
+	set.add(3)
 	want := []bool{false, true, true, false, false, true, true, false, false, true}
 	for lit, value := range want {
 		if set.holds(literal(lit)) != value {
 			t.Errorf("literal %d: %t, want %t", lit, !value, value)
 		}
+	}
+}
+
+// Every variable is asked for once, in order, when those before it are settled.
+func TestOrderOfEvaluation(t *testing.T) {
+	c := Circuit{Inputs: 1, Next: []int{9}, Gates: []Gate{{A: 2, B: 4}, {A: 0, B: 0}}, Outs: []int{6, 2, 1}}
+	asked := 0
+	odd := evaluation(func(v int, earlier bitSet) bool {
+		if v != asked {
+			t.Errorf("asked for variable %d, want %d", v, asked)
+		}
+		for before := range v {
+			if earlier.has(before) != (before%2 == 1) {
+				t.Errorf("variable %d sees %d as %t", v, before, earlier.has(before))
+			}
+		}
+		asked++
+		return v%2 == 1
+	})
+	result := odd.step(c)
+	if asked != 5 {
+		t.Errorf("asked %d times", asked)
+	}
+	if !slices.Equal(result.Outs, []bool{true, true, true}) || !slices.Equal(result.State, []bool{true}) {
+		t.Error(result)
 	}
 }

@@ -386,21 +386,29 @@ func mixedOfSize(inputs int, latches int, gates int, outs int) impl.Circuit {
 	return c
 }
 
-// Promises 5, 6 and 56 for every size within the limits.
-func TestCompiledCircuitsOfEverySize(t *testing.T) {
+// everySize yields one circuit of every size within the limits.
+func everySize(yield func(namedCircuit) bool) {
 	for inputs := range impl.MaxInputs + 1 {
 		for latches := range impl.MaxLatches + 1 {
 			for gates := range impl.MaxGates + 1 {
 				for outs := range impl.MaxOutputs + 1 {
-					c := mixedOfSize(inputs, latches, gates, outs)
 					name := fmt.Sprintf("%d inputs, %d latches, %d gates, %d outputs", inputs, latches, gates, outs)
-					if !impl.CircuitValid(c) {
-						t.Fatalf("%s: not valid: %v", name, c)
+					if !yield(namedCircuit{name, mixedOfSize(inputs, latches, gates, outs)}) {
+						return
 					}
-					checkBoth(t, name, c)
 				}
 			}
 		}
+	}
+}
+
+// Promises 5, 6 and 56 for every size within the limits.
+func TestCompiledCircuitsOfEverySize(t *testing.T) {
+	for k := range everySize {
+		if !impl.CircuitValid(k.c) {
+			t.Fatalf("%s: not valid: %v", k.name, k.c)
+		}
+		checkBoth(t, k.name, k.c)
 	}
 }
 
